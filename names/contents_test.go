@@ -123,8 +123,53 @@ func TestEmptyNames(t *testing.T) { // an empty name is no name
 		})
 	x := newExample()
 	checkList(t, x, "Problems", Problems(ms), showProblem, "m 6-6 unknown t")
-	checkList(t, x, "Calls", Calls(ms), showCall)
+	checkList(t, x, "Calls", Calls(ms), showCall, "m. m.g")
 	checkList(t, x, "Visible", Visible(ms, "m", 0), showSymbol, "fun m:g@0", "ctor m:A@3")
+}
+
+func TestCallersWithoutNames(t *testing.T) { // P11.9: a caller may have any name, a callee has one
+	call := func(module, name string, kids ...api.Expr) api.Expr {
+		return api.Expr{Kind: api.ECall, S: module, Name: name, Kids: kids}
+	}
+	fun := func(name string, body ...api.Expr) api.Decl {
+		return api.Decl{Kind: api.DFun, Name: name, Body: list(body...)}
+	}
+	proc := func(name string, stmts ...api.Stmt) api.Decl {
+		return api.Decl{Kind: api.DProc, Name: name, Stmts: stmts}
+	}
+	x, y := fun("x"), fun("y")
+	withDefault := fun("")
+	withDefault.Params = []api.Param{{Name: "p", Has: true, Default: call("", "x")}}
+	type modules = []api.Module
+	for _, c := range []struct {
+		about string
+		ms    modules
+		want  []string
+	}{
+		{"a function", modules{{Name: "m", Decls: []api.Decl{fun("", call("", "x")), x}}}, []string{"m. m.x"}},
+		{"an insert", modules{{Name: "m", Decls: []api.Decl{proc("", api.Stmt{Value: call("", "x")}), x}}}, []string{"m. m.x"}},
+		{"a delete", modules{{Name: "m", Decls: []api.Decl{proc("", api.Stmt{Kind: api.SDelete, Cond: call("m", "x"), Value: call("", "y")}), x, y}}}, []string{"m. m.x"}},
+		{"an update", modules{{Name: "m", Decls: []api.Decl{proc("", api.Stmt{Kind: api.SUpdate, Cond: call("", "y"), Value: call("", "x")}), x, y}}}, []string{"m. m.x", "m. m.y"}},
+		{"several declarations", modules{{Name: "m", Decls: []api.Decl{x, fun("", call("", "y"), call("", "x"), call("", "y")), proc("", api.Stmt{Value: call("", "x")}), y}}}, []string{"m. m.x", "m. m.y"}},
+		{"another module", modules{{Name: "n", Decls: []api.Decl{fun("", call("m", "x"), call("", "x"))}}, {Name: "m", Decls: []api.Decl{x}}}, []string{"n. m.x"}},
+		{"modules without names", modules{{Decls: []api.Decl{fun("", call("", "x")), fun("y", call("", "x")), x}}}, []string{". .x", ".y .x"}},
+		{"callers with and without names", modules{
+			{Name: "m", Decls: []api.Decl{fun("a", call("", "x")), fun("", call("", "x", call("", "a"))), x}},
+			{Name: "l", Decls: []api.Decl{fun("", call("m", "x"))}},
+		}, []string{"l. m.x", "m. m.a", "m. m.x", "m.a m.x"}},
+		{"callees without names", modules{{Name: "m", Decls: []api.Decl{fun("", call("", ""), call("m", "")), fun("x", call("", ""))}}}, nil},
+		{"names without meanings", modules{{Name: "m", Decls: []api.Decl{fun("", call("", "z"), call("", "size"), call("n", "x"), call("", "p")), proc("p"), x}}}, nil},
+		{"a default", modules{{Name: "m", Decls: []api.Decl{withDefault, x}}}, nil},
+		{"what has no body", modules{{Name: "m", Decls: []api.Decl{
+			{Kind: api.DType, Body: call("", "x"), Stmts: []api.Stmt{{Value: call("", "x")}}},
+			{Kind: api.DTable, Table: api.Table{Check: call("", "x")}, Body: call("", "x")},
+			{Kind: api.DFun, Stmts: []api.Stmt{{Value: call("", "x")}}},
+			{Kind: api.DProc, Body: call("", "x")},
+			{Kind: 7, Body: call("", "x")}, x,
+		}}}, nil},
+	} {
+		checkList(t, newExample(), c.about, Calls(c.ms), showCall, c.want...)
+	}
 }
 
 func TestModulesWithEqualNames(t *testing.T) { // their functions are those of one module

@@ -493,9 +493,7 @@ func modelCalls(ms []api.Module) [][2]string {
 		steps := strings.Split(string(n.decl), "/")
 		i, _ := strconv.Atoi(steps[0])
 		j, _ := strconv.Atoi(steps[1])
-		if caller := ms[i].Decls[j].Name; caller != "" {
-			l = append(l, [2]string{ms[i].Name + "." + caller, s.Module + "." + s.Name})
-		}
+		l = append(l, [2]string{ms[i].Name + "." + ms[i].Decls[j].Name, s.Module + "." + s.Name})
 	}
 	sort.Slice(l, func(i, j int) bool {
 		if l[i][0] != l[j][0] {
